@@ -29,13 +29,13 @@ func Read(s string) ([]api.Ins, int, api.Errno) {
 	var n nesting
 	at := 0
 	for !n.ended {
-		// Ahead of the next one: a body of so many that goes on is too large, whatever follows.
-		if len(list) == api.MaxBody {
-			return nil, 0, api.ErrLarge
-		}
 		x, size, err := ins.Read(s[at:])
 		if err != api.OK {
 			return nil, 0, err
+		}
+		// Between the two: what can't be read is told ahead of a body that is too large, what is out of place behind it.
+		if len(list) == api.MaxBody {
+			return nil, 0, api.ErrLarge
 		}
 		if err := n.step(x); err != api.OK {
 			return nil, 0, err

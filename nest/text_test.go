@@ -97,7 +97,7 @@ func firstWrong(l []api.Ins) (int, api.Errno) {
 			return n + 1, err
 		}
 	}
-	if len(l) >= 200 {
+	if len(l) > 200 {
 		return 0, api.ErrLarge
 	}
 	return 0, api.ErrShort
@@ -156,18 +156,58 @@ func TestReadFirstError(t *testing.T) {
 		{"199, then no instruction", nops(199) + "\x06", api.ErrUnsup},
 		{"199, then an else", nops(199) + "\x05", api.ErrForm},
 		{"199, then 13 deep", nops(187) + blocks + "\x02\x40", api.ErrDeep},
-		{"200 without an end", nops(200), api.ErrLarge},
+		{"200 without an end", nops(200), api.ErrShort},
+		{"200, then one more", nops(201), api.ErrLarge},
 		{"200, then an end", nops(200) + "\x0b", api.ErrLarge},
-		{"200, then an else", nops(200) + "\x05\x0b", api.ErrLarge},
-		{"200, then no instruction", nops(200) + "\x06", api.ErrLarge},
-		{"200, the last one an end of a block", nops(198) + "\x02\x40\x0b", api.ErrLarge},
+		{"200, then an else", nops(200) + "\x05", api.ErrLarge},
+		{"200, then an else and an end", nops(200) + "\x05\x0b", api.ErrLarge},
+		{"200, then no instruction", nops(200) + "\x06", api.ErrUnsup},
+		{"200, then a byte 255", nops(200) + "\xff", api.ErrUnsup},
+		{"200, then a piece", nops(200) + "\x41", api.ErrShort},
+		{"200, then a byte that must be 0", nops(200) + "\x3f\x01", api.ErrForm},
+		{"200, then a number that is too long", nops(200) + "\x0c\x80\x80\x80\x80\x80\x00", api.ErrForm},
+		{"200, then one more and no instruction", nops(201) + "\x06", api.ErrLarge},
+		{"200, the last one an end of a block", nops(198) + "\x02\x40\x0b", api.ErrShort},
+		{"200, the last one an end of a block, then an end", nops(198) + "\x02\x40\x0b\x0b", api.ErrLarge},
+		{"200, 12 deep", full, api.ErrShort},
 		{"200, then 13 deep", full + "\x02\x40", api.ErrLarge},
+		{"200, then 13 deep, of no kind", full + "\x02\x41", api.ErrUnsup},
+		{"200, then 13 deep, a piece", full + "\x02", api.ErrShort},
 		{"200, then all ends", full + strings.Repeat("\x0b", 13), api.ErrLarge},
 		{"an else alone, then many", "\x05" + nops(300), api.ErrForm},
 		{"very many", nops(100000), api.ErrLarge},
 	}
 	for _, r := range rows {
 		t.Run(r.name, func(t *testing.T) { refused(t, r.text, r.want) })
+	}
+}
+
+// P13: behind 200 that go on there is what ins.Read says, and else ErrLarge, whatever the 200 are; behind 200 that have ended there is nothing.
+func TestReadBehindTwoHundred(t *testing.T) {
+	open := []string{
+		strings.Repeat("\x01", 200),
+		strings.Repeat("\x01", 188) + strings.Repeat("\x02\x40", 12),
+		strings.Repeat("\x01", 198) + "\x04\x40\x05",
+		strings.Repeat("\x03\x40\x0b", 100),
+	}
+	ended := strings.Repeat("\x01", 199) + "\x0b"
+	body := join(times(199, 1), list(11))
+	behind := func(tail string) {
+		_, _, want := ins.Read(tail)
+		if want == api.OK {
+			want = api.ErrLarge
+		}
+		for _, front := range open {
+			refused(t, front+tail, want)
+		}
+		readAs(t, ended+tail, body, 200)
+	}
+	behind("")
+	for a := range 256 {
+		behind(string([]byte{byte(a)}))
+		for _, b := range []byte{0, 1, 5, 11, 16, 17, 64, 65, 126, 127, 128, 255} {
+			behind(string([]byte{byte(a), b}))
+		}
 	}
 }
 
