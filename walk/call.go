@@ -1,0 +1,102 @@
+package walk
+
+import (
+	"slices"
+
+	"troupe/api"
+)
+
+// nobody stands in a place of a table in which there is no function.
+const nobody = -1
+
+// call is a call under way: what it has for itself, and the instance.
+type call struct {
+	*instance
+	steps  []step
+	at     int // the place of the next instruction
+	locals []int64
+	stack  []int64
+}
+
+// walk goes from the next instruction on behind the body's own end, if nothing ends all ahead of that.
+func (c *call) walk() {
+	for c.end == underWay && c.at < len(c.steps) {
+		do := c.steps[c.at]
+		c.at++ // ahead of what is done, which may lead elsewhere
+		do(c)
+	}
+}
+
+func (c *call) give(vals ...int64) {
+	c.stack = append(c.stack, vals...)
+}
+
+func (c *call) take() int64 {
+	last := len(c.stack) - 1
+	n := c.stack[last]
+	c.stack = c.stack[:last]
+	return n
+}
+
+// takeAll takes the topmost values, and answers them, the topmost last, with memory of their own.
+func (c *call) takeAll(count int) []int64 {
+	left := len(c.stack) - count
+	vals := slices.Clone(c.stack[left:])
+	c.stack = c.stack[:left]
+	return vals
+}
+
+// takePlace takes a number that counts places: it has no sign.
+func (c *call) takePlace() int {
+	return int(uint32(c.take()))
+}
+
+// settle gives what came of an instruction, or ends all with its error.
+func (c *call) settle(n int64, err api.Errno) {
+	if err != api.OK {
+		c.trap(err)
+		return
+	}
+	c.give(n)
+}
+
+// follow goes a way.
+func (c *call) follow(way api.Jump) {
+	kept := c.takeAll(way.Keep)
+	c.stack = append(c.stack[:way.Height], kept...)
+	c.at = way.At
+}
+
+// choose goes the way with that number, or the last one, if there are not so many.
+func (c *call) choose(ways []api.Jump, number int) {
+	c.follow(ways[min(number, len(ways)-1)])
+}
+
+// invoke lets the function with that number take its values, and gives what it gives.
+func (c *call) invoke(number int) {
+	vals := c.takeAll(len(c.typeOf(number).In))
+	own := number - len(c.module.Imports)
+	if own < 0 {
+		c.give(c.ask(number, vals)...)
+		return
+	}
+	c.give(c.enter(own, vals)...)
+}
+
+// invokeAt is invoke of the function at a place of the table, if that is one of such a type.
+func (c *call) invokeAt(place int, s api.Sig) {
+	if place >= len(c.table) || c.table[place] == nobody {
+		c.trap(api.ErrElement)
+		return
+	}
+	number := c.table[place]
+	if !isSame(c.typeOf(number), s) {
+		c.trap(api.ErrMatch)
+		return
+	}
+	c.invoke(number)
+}
+
+func isSame(s, other api.Sig) bool {
+	return slices.Equal(s.In, other.In) && slices.Equal(s.Out, other.Out)
+}
