@@ -2,6 +2,7 @@ package inst
 
 import (
 	"troupe/api"
+	"troupe/mod"
 	"troupe/num"
 	"troupe/valid"
 )
@@ -27,16 +28,11 @@ func tableFits(m api.Module, table []int) bool {
 		return false
 	}
 	for _, number := range table {
-		if number != nobody && !isFunction(m, number) {
+		if number != nobody && !mod.Has(m, number) {
 			return false
 		}
 	}
 	return true
-}
-
-// isFunction tells whether a function of m, from outside or its own, has that number.
-func isFunction(m api.Module, number int) bool {
-	return 0 <= number && number < len(m.Imports)+len(m.Funcs)
 }
 
 func globalsFit(m api.Module, values []int64) bool {

@@ -3,6 +3,7 @@ package valid
 import (
 	"troupe/api"
 	"troupe/bin"
+	"troupe/mod"
 )
 
 // Head answers what is wrong with a module, but for what its bodies do.
@@ -25,19 +26,6 @@ func Head(m api.Module) api.Errno {
 	return api.OK
 }
 
-// isFunction tells whether a function of m, from outside or its own, has that number.
-func isFunction(m api.Module, number int) bool {
-	return number < len(m.Imports)+len(m.Funcs)
-}
-
-// typeOf answers the type of the function with that number, which must be there.
-func typeOf(m api.Module, number int) api.Sig {
-	if number < len(m.Imports) {
-		return m.Types[m.Imports[number].Type]
-	}
-	return m.Types[m.Funcs[number-len(m.Imports)].Type]
-}
-
 func typesAreThere(m api.Module) bool {
 	for _, i := range m.Imports {
 		if i.Type >= len(m.Types) {
@@ -54,7 +42,7 @@ func typesAreThere(m api.Module) bool {
 
 func checkExports(m api.Module) api.Errno {
 	for at, e := range m.Exports {
-		if !isFunction(m, e.Func) {
+		if !mod.Has(m, e.Func) {
 			return api.ErrIndex
 		}
 		for _, other := range m.Exports[:at] {
@@ -71,10 +59,10 @@ func checkStart(m api.Module) api.Errno {
 	if m.Start == 0 {
 		return api.OK
 	}
-	if !isFunction(m, m.Start-1) {
+	if !mod.Has(m, m.Start-1) {
 		return api.ErrIndex
 	}
-	if s := typeOf(m, m.Start-1); len(s.In)+len(s.Out) > 0 {
+	if s := mod.TypeOf(m, m.Start-1); len(s.In)+len(s.Out) > 0 {
 		return api.ErrType
 	}
 	return api.OK
@@ -86,7 +74,7 @@ func elemsAreThere(m api.Module) bool {
 			return false
 		}
 		for _, number := range e.Funcs {
-			if !isFunction(m, number) {
+			if !mod.Has(m, number) {
 				return false
 			}
 		}

@@ -6,6 +6,7 @@ import (
 
 	"troupe/api"
 	"troupe/ins"
+	"troupe/mod"
 )
 
 // step answers why the next instruction isn't sound, and goes past it if it is.
@@ -31,7 +32,7 @@ func (t *track) isThere(x api.Ins) bool {
 	case api.OpBr, api.OpBrIf, api.OpBrTable:
 		return t.leads(x.A) && !slices.ContainsFunc(x.To, func(far int64) bool { return !t.leads(far) })
 	case api.OpCall:
-		return isFunction(m, int(x.A))
+		return mod.Has(m, int(x.A))
 	case api.OpCallIndirect:
 		return m.Table > 0 && isIn(m.Types, x.A)
 	case api.OpLocalGet, api.OpLocalSet, api.OpLocalTee:
@@ -111,7 +112,7 @@ func (t *track) effect(x api.Ins) ([]api.Kind, []api.Kind) {
 	case api.OpReturn:
 		return t.open[0].along(), nil
 	case api.OpCall:
-		s := typeOf(t.module, int(x.A))
+		s := mod.TypeOf(t.module, int(x.A))
 		return s.In, s.Out
 	case api.OpCallIndirect:
 		s := t.module.Types[x.A]

@@ -1,9 +1,7 @@
 package walk_test
 
 import (
-	"math"
 	"slices"
-	"strings"
 	"testing"
 
 	"troupe/api"
@@ -11,31 +9,6 @@ import (
 	"troupe/valid"
 	"troupe/walk"
 )
-
-// longs answers so many numbers, small ones and such at edges.
-func (d *dice) longs(count int) []int64 {
-	var all []int64
-	for range count {
-		n := int64(d.below(12)) - 2
-		if d.below(3) == 0 {
-			n = pick(d, edges()...)
-		}
-		all = append(all, n)
-	}
-	return all
-}
-
-// later is an image that an instance of a module like stage may have after a while.
-func (d *dice) later(m api.Module) api.Image {
-	x := first(m)
-	if d.below(2) == 0 {
-		return x
-	}
-	x.Mem += strings.Repeat("\x81", 256*d.below(m.Most-m.Pages+1))
-	x.Table[d.below(len(x.Table))] = d.below(9) - 1
-	x.Globals[0], x.Globals[1] = int64(int32(d.longs(1)[0])), d.longs(1)[0]
-	return x
-}
 
 // reckoned holds what comes of a call on a sound module against the second reckoning.
 func reckoned(t *testing.T, m api.Module, x api.Image, f int, args, answers []int64, fuel int) api.Out {
@@ -85,28 +58,6 @@ func TestAnyBodies(t *testing.T) {
 	}
 }
 
-// altered is a body in which some instructions have gone, or are other ones, or have come from elsewhere in it.
-func (d *dice) altered(list []api.Ins) []api.Ins {
-	list = slices.Clone(list)
-	for range 1 + d.below(3) {
-		at := d.below(len(list))
-		switch d.below(4) {
-		case 0:
-			list = slices.Delete(list, at, at+1)
-		case 1:
-			list = slices.Insert(list, at, list[d.below(len(list))])
-		case 2:
-			list[at].A = pick[int64](d, 0, 1, 2, 3, 64, 126, 127)
-		case 3:
-			list[at] = one(pick(d, "nop", "drop", "int 1", "long 1", "return", "unreachable", "br 0", "br 1", "br_if 0", "block", "end", "else", "br_table 0 1 0"))
-		}
-		if len(list) == 0 {
-			return list
-		}
-	}
-	return list
-}
-
 // P27, P28: bodies that are a little other than sound ones, and sound as well.
 func TestAlteredBodies(t *testing.T) {
 	d := dice(2463534242987654321)
@@ -117,7 +68,7 @@ func TestAlteredBodies(t *testing.T) {
 			other := m
 			other.Funcs = slices.Clone(m.Funcs)
 			own := d.below(len(m.Funcs))
-			other.Funcs[own].Body = d.altered(m.Funcs[own].Body)
+			other.Funcs[own].Body = d.from().Altered(m.Funcs[own].Body)
 			if valid.Module(other) == api.OK {
 				sound++
 				d.calls(t, other, count)
@@ -144,78 +95,6 @@ func TestAnyFuel(t *testing.T) {
 			}
 		}
 	}
-}
-
-// wild answers numbers at all edges.
-func (d *dice) wild() int {
-	switch d.below(4) {
-	case 0:
-		return d.below(3)
-	case 1:
-		return pick(d, math.MinInt64, math.MaxInt64, -1, 1<<31, 1<<32-1, 1<<32, -1<<31, 63, 64, 256, 2048)
-	}
-	return d.below(20) - 2
-}
-
-func wildList[T any](d *dice, one func() T) []T {
-	var all []T
-	for range d.below(pick(d, 2, 4, 19)) {
-		all = append(all, one())
-	}
-	return all
-}
-
-func (d *dice) wildModule() api.Module {
-	long := func() int64 { return int64(d.wild()) }
-	kind := func() api.Kind { return pick(d, i32, i64, i32, i64, api.NoKind, api.Kind(d.below(256))) }
-	name := func() string { return pick(d, "", "a", "b", "\xff", "a name of 17 byte", "a name of 16 byt") }
-	single := func() api.Ins {
-		return api.Ins{Op: byte(d.below(256)), A: long(), B: long(), To: wildList(d, long)}
-	}
-	return api.Module{
-		Types:   wildList(d, func() api.Sig { return api.Sig{In: wildList(d, kind), Out: wildList(d, kind)} }),
-		Imports: wildList(d, func() api.Import { return api.Import{Name: name(), Type: d.wild()} }),
-		Funcs: wildList(d, func() api.Func {
-			return api.Func{Type: d.wild(), Locals: wildList(d, kind), Body: append(wildList(d, single), one("end"))}
-		}),
-		Table:   d.wild(),
-		Pages:   d.wild(),
-		Most:    d.wild(),
-		Globals: wildList(d, func() api.Global { return api.Global{Kind: kind(), Mut: d.below(2) == 0, Start: long()} }),
-		Exports: wildList(d, func() api.Export { return api.Export{Name: name(), Func: d.wild()} }),
-		Start:   d.wild(),
-		Elems:   wildList(d, func() api.Elem { return api.Elem{At: d.wild(), Funcs: wildList(d, d.wild)} }),
-		Data:    wildList(d, func() api.Data { return api.Data{At: d.wild(), Bytes: name()} }),
-	}
-}
-
-func (d *dice) wildImage() api.Image {
-	text := strings.Repeat("x", pick(d, 0, 1, 255, 256, 512, 1024, 2048, 2304))
-	return api.Image{Mem: text, Table: wildList(d, d.wild), Globals: wildList(d, func() int64 { return int64(d.wild()) })}
-}
-
-// spoilt is a sound module some parts of which are other ones.
-func (d *dice) spoilt() api.Module {
-	m, other := d.play(), d.wildModule()
-	switch d.below(9) {
-	case 0:
-		m.Types = other.Types
-	case 1:
-		m.Imports = other.Imports
-	case 2:
-		m.Funcs = other.Funcs
-	case 3:
-		m.Table = other.Table
-	case 4:
-		m.Pages, m.Most = other.Pages, other.Most
-	case 5:
-		m.Globals = other.Globals
-	case 6:
-		m.Exports, m.Start = other.Exports, other.Start
-	case 7:
-		m.Elems, m.Data = other.Elems, other.Data
-	}
-	return m
 }
 
 // errorOf is what a call must say, by the words of P27.
@@ -246,15 +125,15 @@ func TestAnything(t *testing.T) {
 	d := dice(141421356237309)
 	count := map[api.Errno]int{}
 	for round := range 20000 {
-		m := d.wildModule()
+		m := d.from().WildModule()
 		if round%2 == 0 {
-			m = d.spoilt()
+			m = d.from().Spoilt()
 		}
-		x := d.wildImage()
+		x := d.from().WildImage()
 		if _, err := inst.Make(m); err == api.OK && d.below(8) > 0 {
 			x = first(m)
 		}
-		f, fuel := pick(&d, d.wild(), main+d.below(4)), pick(&d, d.wild(), d.below(200), 200)
+		f, fuel := pick(&d, d.from().Wild(), main+d.below(4)), pick(&d, d.from().Wild(), d.below(200), 200)
 		values, answers := d.argsOf(m, x, f), d.longs(d.below(3))
 		want := errorOf(m, x, f, values, fuel)
 		count[want]++

@@ -6,69 +6,9 @@ import (
 	"testing"
 
 	"troupe/api"
+	"troupe/probe"
 	"troupe/walk"
 )
-
-// roomy is a list with memory of its own, and room behind it in which fill stands.
-func roomy[T any](from []T, fill T) []T {
-	all := make([]T, len(from)+3)
-	for at := range all {
-		all[at] = fill
-	}
-	copy(all, from)
-	return all[:len(from)]
-}
-
-func wide[T any](list []T) []T {
-	return list[:cap(list)]
-}
-
-func cloneAll[T any](from []T, one func(T) T) []T {
-	var all []T
-	for _, x := range from {
-		all = append(all, one(x))
-	}
-	return all
-}
-
-func roomyFunc(f api.Func) api.Func {
-	list := cloneAll(f.Body, func(x api.Ins) api.Ins {
-		x.To = roomy(x.To, 99)
-		return x
-	})
-	return api.Func{Type: f.Type, Locals: roomy(f.Locals, 99), Body: roomy(list, api.Ins{Op: 99})}
-}
-
-// roomyModule is m with memory of its own, and room behind each list.
-func roomyModule(m api.Module) api.Module {
-	m.Types = roomy(cloneAll(m.Types, func(s api.Sig) api.Sig { return api.Sig{In: roomy(s.In, 99), Out: roomy(s.Out, 99)} }), api.Sig{In: kinds(99)})
-	m.Imports = roomy(m.Imports, api.Import{Type: 99})
-	m.Funcs = roomy(cloneAll(m.Funcs, roomyFunc), api.Func{Type: 99})
-	m.Globals = roomy(m.Globals, api.Global{Kind: 99})
-	m.Exports = roomy(m.Exports, api.Export{Func: 99})
-	m.Elems = roomy(cloneAll(m.Elems, func(e api.Elem) api.Elem { return api.Elem{At: e.At, Funcs: roomy(e.Funcs, 99)} }), api.Elem{At: 99})
-	m.Data = roomy(m.Data, api.Data{At: 99})
-	return m
-}
-
-func roomyImage(x api.Image) api.Image {
-	return api.Image{Mem: x.Mem, Table: roomy(x.Table, 99), Globals: roomy(x.Globals, 99)}
-}
-
-// unroomyModule is m with the room behind each list as a part of it.
-func unroomyModule(m api.Module) api.Module {
-	m.Types = cloneAll(wide(m.Types), func(s api.Sig) api.Sig { return api.Sig{In: wide(s.In), Out: wide(s.Out)} })
-	m.Imports, m.Globals, m.Exports, m.Data = wide(m.Imports), wide(m.Globals), wide(m.Exports), wide(m.Data)
-	m.Funcs = cloneAll(wide(m.Funcs), func(f api.Func) api.Func {
-		list := cloneAll(wide(f.Body), func(x api.Ins) api.Ins {
-			x.To = wide(x.To)
-			return x
-		})
-		return api.Func{Type: f.Type, Locals: wide(f.Locals), Body: list}
-	})
-	m.Elems = cloneAll(wide(m.Elems), func(e api.Elem) api.Elem { return api.Elem{At: e.At, Funcs: wide(e.Funcs)} })
-	return m
-}
 
 // given is all that is handed in to a call.
 type given struct {
@@ -81,14 +21,13 @@ type given struct {
 
 // roomy is the same with memory of its own, and room behind each list.
 func (g given) roomy() given {
-	g.m, g.x, g.args, g.answers = roomyModule(g.m), roomyImage(g.x), roomy(g.args, 99), roomy(g.answers, 99)
+	g.m, g.x, g.args, g.answers = probe.RoomyModule(g.m), probe.RoomyImage(g.x), probe.Roomy(g.args, 99), probe.Roomy(g.answers, 99)
 	return g
 }
 
 // unroomy is the same with the room behind each list as a part of it.
 func (g given) unroomy() given {
-	g.m, g.args, g.answers = unroomyModule(g.m), wide(g.args), wide(g.answers)
-	g.x.Table, g.x.Globals = wide(g.x.Table), wide(g.x.Globals)
+	g.m, g.x, g.args, g.answers = probe.WideModule(g.m), probe.WideImage(g.x), probe.Wide(g.args), probe.Wide(g.answers)
 	return g
 }
 
@@ -106,10 +45,10 @@ func much() given {
 
 func (d *dice) givens() []given {
 	list := []given{much(), {}, {m: stage(), x: first(stage()), f: -1}}
-	for _, m := range wrongModules() {
+	for _, m := range probe.WrongModules() {
 		list = append(list, given{m: m, x: first(stage()), f: main, args: args(1), fuel: 5})
 	}
-	for _, x := range wrongImages() {
+	for _, x := range probe.WrongImages() {
 		list = append(list, given{m: stage(), x: x, f: main, answers: args(2), fuel: 5})
 	}
 	for range 300 {
@@ -153,8 +92,8 @@ func TestListsApart(t *testing.T) {
 		}
 		lists, want := got.lists(), again.lists()
 		for at, list := range lists {
-			for place := range wide(list) {
-				wide(list)[place] = 77
+			for place := range probe.Wide(list) {
+				probe.Wide(list)[place] = 77
 			}
 			for other := at + 1; other < len(lists); other++ {
 				if !slices.Equal(lists[other], want[other]) {
@@ -168,14 +107,14 @@ func TestListsApart(t *testing.T) {
 // spoil writes into all that is answered, the room behind lists included.
 func (r result) spoil() {
 	for _, list := range r.lists() {
-		for place := range wide(list) {
-			wide(list)[place] = 77
+		for place := range probe.Wide(list) {
+			probe.Wide(list)[place] = 77
 		}
 	}
-	for place := range wide(r.image.Table) {
-		wide(r.image.Table)[place] = 77
+	for place := range probe.Wide(r.image.Table) {
+		probe.Wide(r.image.Table)[place] = 77
 	}
-	clear(wide(r.asks))
+	clear(probe.Wide(r.asks))
 }
 
 // P2: what is answered shares no memory with what was handed in, nor with what is answered next.

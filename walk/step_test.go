@@ -13,12 +13,6 @@ import (
 	"troupe/num"
 )
 
-// edges are numbers at which instructions do something else than beside them.
-func edges() []int64 {
-	return []int64{math.MinInt64, math.MinInt64 + 1, math.MinInt32 - 1, math.MinInt32, math.MinInt32 + 1, -256, -255, -32, -2, -1, 0, 1, 2, 5, 31, 32, 33,
-		63, 64, 127, 128, 255, 256, 32767, 32768, math.MaxInt32, math.MaxInt32 + 1, math.MaxUint32, math.MaxUint32 + 1, math.MaxInt64 - 1, math.MaxInt64}
-}
-
 // numberWord is a const of that kind.
 func numberWord(kind api.Kind, n int64) string {
 	if kind == i32 {

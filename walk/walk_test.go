@@ -2,12 +2,12 @@ package walk_test
 
 import (
 	"math"
-	"slices"
 	"strconv"
 	"testing"
 
 	"troupe/api"
 	"troupe/inst"
+	"troupe/probe"
 	"troupe/walk"
 )
 
@@ -38,10 +38,6 @@ func playAll(t *testing.T, locals []api.Kind, samples []sample) {
 	for _, s := range samples {
 		plays(t, s.text, with(s.number, locals, s.text), s.args, s.want)
 	}
-}
-
-func args(list ...int64) []int64 {
-	return list
 }
 
 // P27: how it ends, with what is left of the fuel, what the instance has then, and what was asked.
@@ -105,59 +101,15 @@ func refuses(t *testing.T, what string, m api.Module, x api.Image, f int, args [
 	}
 }
 
-// wrongModules are modules that are not sound, with what valid.Module says of them.
-func wrongModules() map[api.Errno]api.Module {
-	long := with(typeNothing, nil, "")
-	long.Funcs[0].Body = slices.Repeat(long.Funcs[0].Body, api.MaxBody+1)
-	open := stage()
-	open.Funcs[3].Body = open.Funcs[3].Body[:2]
-	unknown := stage()
-	unknown.Funcs[1].Type = 10
-	twice := stage()
-	twice.Exports[1].Name = "a"
-	return map[api.Errno]api.Module{
-		api.ErrLarge: long,
-		api.ErrShort: open,
-		api.ErrIndex: unknown,
-		api.ErrName:  twice,
-		api.ErrType:  with(typeInt, nil, "long"),
-		api.ErrAlign: with(typeNothing, nil, "int 0, load 3, drop"),
-		api.ErrUnsup: with(typeNothing, nil, "6"),
-		api.ErrForm:  with(typeNothing, nil, "else"),
-		api.ErrArg:   with(typeNothing, nil, "int 2147483648, drop"),
-	}
-}
-
-// wrongImages are images that no instance of stage has.
-func wrongImages() []api.Image {
-	var all []api.Image
-	for _, spoil := range []func(x *api.Image){
-		func(x *api.Image) { *x = api.Image{} },
-		func(x *api.Image) { x.Mem = zeros(255) },
-		func(x *api.Image) { x.Mem = zeros(1024) },
-		func(x *api.Image) { x.Table = x.Table[:7] },
-		func(x *api.Image) { x.Table[0] = 8 },
-		func(x *api.Image) { x.Table[0] = -2 },
-		func(x *api.Image) { x.Globals = append(x.Globals, 0) },
-		func(x *api.Image) { x.Globals[0] = 1 << 31 },
-		func(x *api.Image) { x.Globals[2] = 0 },
-	} {
-		x := first(stage())
-		spoil(&x)
-		all = append(all, x)
-	}
-	return all
-}
-
 // P27: an error of inst.Fits comes ahead of all others.
 func TestErrorsOfFits(t *testing.T) {
-	for want, m := range wrongModules() {
+	for want, m := range probe.WrongModules() {
 		for _, f := range []int{main, -1, 99} {
 			refuses(t, "a module that is not sound", m, first(stage()), f, nil, plenty, want)
 			refuses(t, "a module that is not sound", m, api.Image{}, f, args(1, 2, 3), -1, want)
 		}
 	}
-	for at, x := range wrongImages() {
+	for at, x := range probe.WrongImages() {
 		if inst.Fits(stage(), x) != api.ErrArg {
 			t.Fatalf("image %d fits", at)
 		}

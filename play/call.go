@@ -1,9 +1,10 @@
-package walk
+package play
 
 import (
 	"slices"
 
 	"troupe/api"
+	"troupe/mod"
 )
 
 // nobody stands in a place of a table in which there is no function.
@@ -11,20 +12,29 @@ const nobody = -1
 
 // call is a call under way: what it has for itself, and the instance.
 type call struct {
-	*instance
-	steps  []step
+	*Instance
+	own    int // which of the module's own functions was called
 	at     int // the place of the next instruction
 	locals []int64
 	stack  []int64
 }
 
-// walk goes from the next instruction on behind the body's own end, if nothing ends all ahead of that.
-func (c *call) walk() {
-	for c.end == underWay && c.at < len(c.steps) {
-		do := c.steps[c.at]
-		c.at++ // ahead of what is done, which may lead elsewhere
-		do(c)
-	}
+// told answers what the call has, with memory of its own.
+func (c *call) told() api.Call {
+	return api.Call{Func: c.own, At: c.at, Locals: slices.Clone(c.locals), Stack: slices.Clone(c.stack)}
+}
+
+// next does the next instruction.
+func (c *call) next() {
+	do := c.bodies[c.own][c.at]
+	c.at++ // ahead of what is done, which may lead elsewhere
+	do(c)
+}
+
+// rest ends a piece of the run ahead of the instruction that was come to, which is not done.
+func (c *call) rest() {
+	c.at--
+	c.out = api.Out{End: api.EndFuel}
 }
 
 func (c *call) give(vals ...int64) {
@@ -72,15 +82,15 @@ func (c *call) choose(ways []api.Jump, number int) {
 	c.follow(ways[min(number, len(ways)-1)])
 }
 
-// invoke lets the function with that number take its values, and gives what it gives.
+// invoke lets the function with that number take its values: what it gives is given as soon as it has come to its end, or the answer has come.
 func (c *call) invoke(number int) {
 	vals := c.takeAll(len(c.typeOf(number).In))
 	own := number - len(c.module.Imports)
 	if own < 0 {
-		c.give(c.ask(number, vals)...)
+		c.ask(number, vals)
 		return
 	}
-	c.give(c.enter(own, vals)...)
+	c.enter(own, vals)
 }
 
 // invokeAt is invoke of the function at a place of the table, if that is one of such a type.
@@ -90,13 +100,9 @@ func (c *call) invokeAt(place int, s api.Sig) {
 		return
 	}
 	number := c.table[place]
-	if !isSame(c.typeOf(number), s) {
+	if !mod.Same(c.typeOf(number), s) {
 		c.trap(api.ErrMatch)
 		return
 	}
 	c.invoke(number)
-}
-
-func isSame(s, other api.Sig) bool {
-	return slices.Equal(s.In, other.In) && slices.Equal(s.Out, other.Out)
 }

@@ -1,4 +1,4 @@
-package walk
+package play
 
 import (
 	"troupe/api"
@@ -15,6 +15,7 @@ func stepsOf(list []api.Ins, spots []api.Spot) []step {
 	for at, x := range list {
 		steps[at] = stepOf(x, spots[at].To)
 	}
+	steps[len(list)-1] = (*call).leave // the body's own end
 	return steps
 }
 
@@ -32,7 +33,7 @@ func stepOf(x api.Ins, ways []api.Jump) step {
 func paid(do step) step {
 	return func(c *call) {
 		if c.fuel == 0 {
-			c.stop(api.EndFuel, api.OK)
+			c.rest()
 			return
 		}
 		c.fuel--
@@ -119,15 +120,15 @@ func pickOne(c *call) {
 func memoryOf(x api.Ins) step {
 	switch {
 	case x.Op == api.OpMemSize:
-		return func(c *call) { c.give(int64(c.memory.Size())) }
+		return func(c *call) { c.give(int64(c.Memory.Size())) }
 	case x.Op == api.OpMemGrow:
-		return func(c *call) { c.give(c.memory.Grow(c.take())) }
+		return func(c *call) { c.give(c.Memory.Grow(c.take())) }
 	case ins.Width(x.Op) == 0:
 		return reckonOf(x.Op)
 	}
 	_, gives, _ := ins.Plain(x.Op)
 	if len(gives) > 0 {
-		return func(c *call) { c.settle(c.memory.Load(x.Op, c.take(), x.B)) }
+		return func(c *call) { c.settle(c.Memory.Load(x.Op, c.take(), x.B)) }
 	}
 	return storeOf(x)
 }
@@ -135,7 +136,7 @@ func memoryOf(x api.Ins) step {
 func storeOf(x api.Ins) step {
 	return func(c *call) {
 		vals := c.takeAll(2)
-		if err := c.memory.Store(x.Op, vals[0], x.B, vals[1]); err != api.OK {
+		if err := c.Memory.Store(x.Op, vals[0], x.B, vals[1]); err != api.OK {
 			c.trap(err)
 		}
 	}
