@@ -51,8 +51,13 @@ func cloneSig(s api.Sig) api.Sig {
 
 func cloneFunc(f api.Func) api.Func {
 	f.Locals = slices.Clone(f.Locals)
-	f.Body = cloneAll(f.Body, cloneIns)
+	f.Body = CloneBody(f.Body)
 	return f
+}
+
+// CloneBody answers the same instructions with memory of their own.
+func CloneBody(l []api.Ins) []api.Ins {
+	return cloneAll(l, cloneIns)
 }
 
 func cloneIns(x api.Ins) api.Ins {
