@@ -213,11 +213,11 @@ func errorOf(x api.Image, s api.State) api.Errno {
 		}
 		return api.OK
 	}
-	all := []api.Errno{large(len(x.Mem), 2048), large(len(x.Table), 16)}
+	all := []api.Errno{large(len(x.Mem), 2048), large(len(x.Table), 16), large(len(x.Globals), 8)}
 	for _, n := range x.Table {
 		all = append(all, outside(n, -2147483648, 2147483647))
 	}
-	all = append(all, large(len(x.Globals), 8), outside(s.Host, 0, 4294967295), large(len(s.Calls), 40))
+	all = append(all, outside(s.Host, 0, 4294967295), large(len(s.Calls), 40))
 	for _, c := range s.Calls {
 		all = append(all, outside(c.Func, 0, 4294967295), outside(c.At, 0, 4294967295), large(len(c.Locals), 20), large(len(c.Stack), 200))
 	}

@@ -25,27 +25,34 @@ type writer struct {
 	err  api.Errno
 }
 
+// image tells first whether any part has too much, and only then whether what stands in one of them can't be told.
 func (w *writer) image(x api.Image) {
+	w.limit(len(x.Mem), maxMem)
+	w.limit(len(x.Table), api.MaxTable)
+	w.limit(len(x.Globals), api.MaxGlobals)
 	w.bytes(x.Mem)
-	writeList(w, x.Table, api.MaxTable, w.place)
-	writeList(w, x.Globals, api.MaxGlobals, w.value)
+	writeList(w, x.Table, w.place)
+	writeList(w, x.Globals, w.value)
 }
 
 func (w *writer) state(s api.State) {
 	w.number(s.Host)
-	writeList(w, s.Calls, api.MaxCalls, w.call)
+	w.limit(len(s.Calls), api.MaxCalls)
+	writeList(w, s.Calls, w.call)
 }
 
 func (w *writer) call(c api.Call) {
 	w.number(c.Func)
 	w.number(c.At)
-	writeList(w, c.Locals, maxLocals, w.value)
-	writeList(w, c.Stack, api.MaxBody, w.value)
+	w.limit(len(c.Locals), maxLocals)
+	w.limit(len(c.Stack), api.MaxBody)
+	writeList(w, c.Locals, w.value)
+	writeList(w, c.Stack, w.value)
 }
 
-// writeList hands the elements of a list over to one, unless there are too many.
-func writeList[T any](w *writer, list []T, most int, one func(T)) {
-	w.count(len(list), most)
+// writeList hands the elements of a list over to one, unless something was wrong ahead of them.
+func writeList[T any](w *writer, list []T, one func(T)) {
+	w.number(len(list))
 	for _, x := range list {
 		if w.err != api.OK {
 			return
@@ -54,14 +61,13 @@ func writeList[T any](w *writer, list []T, most int, one func(T)) {
 	}
 }
 
-func (w *writer) bytes(s string) {
-	w.count(len(s), maxMem)
-	w.put(s)
+func (w *writer) limit(n, most int) {
+	w.need(n <= most, api.ErrLarge)
 }
 
-func (w *writer) count(n, most int) {
-	w.need(n <= most, api.ErrLarge)
-	w.number(n)
+func (w *writer) bytes(s string) {
+	w.number(len(s))
+	w.put(s)
 }
 
 func (w *writer) number(n int) {

@@ -113,16 +113,16 @@ type fault struct {
 	spoil func(x *api.Image, s *api.State)
 }
 
-// faults stand in the order in which they are come to; those of Table need two places, those of calls two calls.
+// faults stand in the order in which they are told; those of Table need two places, those of calls two calls.
 func faults() []fault {
 	all := []fault{
 		{"2049 bytes", api.ErrLarge, func(x *api.Image, _ *api.State) { x.Mem = strings.Repeat("m", 2049) }},
 		{"17 places", api.ErrLarge, func(x *api.Image, _ *api.State) { x.Table = make([]int, 17) }},
+		{"9 globals", api.ErrLarge, func(x *api.Image, _ *api.State) { x.Globals = args(1, 2, 3, 4, 5, 6, 7, 8, 9) }},
 		{"a place too low", api.ErrArg, func(x *api.Image, _ *api.State) { x.Table[0] = math.MinInt32 - 1 }},
 		{"a place too high", api.ErrArg, func(x *api.Image, _ *api.State) { x.Table[0] = math.MaxInt32 + 1 }},
 		{"the second place far too low", api.ErrArg, func(x *api.Image, _ *api.State) { x.Table[1] = math.MinInt64 }},
 		{"the second place far too high", api.ErrArg, func(x *api.Image, _ *api.State) { x.Table[1] = math.MaxInt64 }},
-		{"9 globals", api.ErrLarge, func(x *api.Image, _ *api.State) { x.Globals = args(1, 2, 3, 4, 5, 6, 7, 8, 9) }},
 		{"Host too low", api.ErrArg, func(_ *api.Image, s *api.State) { s.Host = -1 }},
 		{"Host too high", api.ErrArg, func(_ *api.Image, s *api.State) { s.Host = math.MaxUint32 + 1 }},
 		{"Host far too low", api.ErrArg, func(_ *api.Image, s *api.State) { s.Host = math.MinInt64 }},
@@ -160,7 +160,7 @@ func TestFaults(t *testing.T) {
 	}
 }
 
-// P35: of several faults the one that is come to first is told: all of Table, then Globals, then Host, then the calls, each of them whole.
+// P35: of several faults the one that stands first is told: how much there is of Mem, Table and Globals, then what is in Table, then Host, then the calls, each of them whole.
 func TestFirstFault(t *testing.T) {
 	all := faults()
 	for at, f := range all {
@@ -169,6 +169,20 @@ func TestFirstFault(t *testing.T) {
 			f.spoil(&x, &s)
 			other.spoil(&x, &s)
 			untold(t, f.what+" and "+other.what, x, s, f.err)
+		}
+	}
+}
+
+// P35: as many of everything as there may be don't hide what is wrong in one of them; one more of Globals does, and one more of Calls doesn't.
+func TestFirstAtLimits(t *testing.T) {
+	for _, n := range []int{math.MinInt64, math.MinInt32 - 1, math.MaxInt32 + 1, math.MaxInt64} {
+		for _, table := range [][]int{{n}, {0, n}, append(make([]int, 15), n)} {
+			most := api.Image{Mem: strings.Repeat("m", 2048), Table: table, Globals: make([]int64, 8)}
+			untold(t, "8 globals", most, api.State{}, api.ErrArg)
+			untold(t, "8 globals, 41 calls", most, under(make([]api.Call, 41)...), api.ErrArg)
+			over := api.Image{Table: table, Globals: make([]int64, 9)}
+			untold(t, "9 globals", over, api.State{}, api.ErrLarge)
+			untold(t, "9 globals, Host too low", over, api.State{Host: -1}, api.ErrLarge)
 		}
 	}
 }
